@@ -213,6 +213,23 @@ func TestNewerOfAll(t *testing.T) {
 	}
 }
 
+func TestIsRight(t *testing.T) {
+	for node := range api.Nodes {
+		for life := range api.MaxLife + 1 {
+			for state := range 3 {
+				if m := member(node, life, state); !view.IsRight(m) {
+					t.Errorf("IsRight(%v): got false", m)
+				}
+			}
+		}
+	}
+	for _, m := range notRight() {
+		if view.IsRight(m) {
+			t.Errorf("IsRight(%v): got true", m)
+		}
+	}
+}
+
 func TestNeitherOfTwoThatAreTheSameIsNewer(t *testing.T) {
 	for node := range api.Nodes {
 		for _, life := range lives {
